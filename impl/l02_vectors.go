@@ -36,6 +36,18 @@ func (v vector) list() []int64 {
 	return slices.Clone(v[:])
 }
 
+func (v *vector) raise(other *vector) {
+	for i, n := range other {
+		v[i] = max(v[i], n)
+	}
+}
+
+func (v *vector) lower(other *vector) {
+	for i, n := range other {
+		v[i] = min(v[i], n)
+	}
+}
+
 func VecOk(v []int64) bool {
 	if len(v) != Devices {
 		return false
@@ -53,9 +65,7 @@ func VecMax(a []int64, b []int64) []int64 {
 	if !ok {
 		return nil
 	}
-	for i := range x {
-		x[i] = max(x[i], y[i])
-	}
+	x.raise(&y)
 	return x.list()
 }
 
@@ -64,9 +74,7 @@ func VecMin(a []int64, b []int64) []int64 {
 	if !ok {
 		return nil
 	}
-	for i := range x {
-		x[i] = min(x[i], y[i])
-	}
+	x.lower(&y)
 	return x.list()
 }
 
